@@ -247,6 +247,40 @@ func TestSentences(t *testing.T) {
 	}
 }
 
+// TestManySpots: where there are many spots for few nodes, all is as where there are few.
+func TestManySpots(t *testing.T) {
+	w, a := walk(t, "s: 'x' s s | t; t: 'x' t s | ;")
+	s := stack.New()
+	from := []Spot{{a.Start[0], 0}}
+	slowFrom := []spot{{a.Start[0], place{-1, 0}}}
+	ups := map[place]map[place]bool{}
+	most := 0
+	for at := range 45 {
+		c, code := w.Close(s, from, at, nil, lots)
+		if code != api.OK {
+			t.Fatal(code)
+		}
+		most = max(most, c.Steps)
+		come, hits, ends := slow(a, slowFrom, ups, at, nil)
+		same(t, s, c, come, hits, ends)
+		again(t, w, s, c, at, nil)
+		from, slowFrom = w.Next(c, 0), nil
+		for x := range come {
+			for _, e := range a.Edges[x.state] {
+				if e.Kind == atn.Token {
+					slowFrom = append(slowFrom, spot{e.To, x.place})
+				}
+			}
+		}
+	}
+	if most < 2*many {
+		t.Error(most)
+	}
+	if x, code := w.Close(s, from, 45, nil, most-5); code != api.ErrBudget || len(x.Spots) != 0 {
+		t.Error(code)
+	}
+}
+
 func same(t *testing.T, s *stack.Stack, c Closed, come map[spot]bool, hits map[[2]spot]bool, ends bool) {
 	t.Helper()
 	as := func(x Spot) spot { return spot{x.State, place{s.Ret(x.Node), s.At(x.Node)}} }

@@ -9,8 +9,10 @@ import (
 	"souffleur/stack"
 )
 
-// few is up to how many spots are looked through one by one.
-const few = 16
+const (
+	few  = 16  // up to so many spots are looked through one by one
+	many = 256 // from so many on they may stand in rows of bits
+)
 
 // run is what one Close has found.
 type run struct {
@@ -21,6 +23,7 @@ type run struct {
 	most  int
 	c     Closed
 	seen  map[Spot]int // the spots, where there are more than a few
+	rows  [][]uint64   // of each state the nodes it was come to with, where there are many spots for so few nodes
 	ended map[int]int  // nodes with which a rule's stop was come to
 	code  api.Errno
 }
@@ -35,11 +38,19 @@ func (r *run) come(x Spot) {
 		return
 	}
 	r.c.Spots = append(r.c.Spots, x)
-	if len(r.c.Spots) == few+1 {
+	switch n := len(r.c.Spots); {
+	case r.rows != nil:
+		r.mark(x)
+	case n >= many && r.s.Long() <= 8*n:
+		r.rows = make([][]uint64, r.w.a.Long())
+		for _, y := range r.c.Spots {
+			r.mark(y)
+		}
+	case n == few+1:
 		for _, y := range r.c.Spots {
 			r.seen[y] = 1
 		}
-	} else if len(r.c.Spots) > few {
+	case n > few:
 		r.seen[x] = 1
 	}
 }
@@ -48,7 +59,25 @@ func (r *run) met(x Spot) bool {
 	if len(r.c.Spots) <= few {
 		return slices.Contains(r.c.Spots, x)
 	}
-	return r.seen[x] > 0
+	if r.rows == nil || x.State >= len(r.rows) {
+		return r.seen[x] > 0
+	}
+	row := r.rows[x.State]
+	return x.Node/64 < len(row) && row[x.Node/64]>>(x.Node%64)&1 == 1
+}
+
+// mark puts a spot to the rows of bits; one of no state, which a stack made elsewhere may lead to, has no row.
+func (r *run) mark(x Spot) {
+	if x.State >= len(r.rows) {
+		r.seen[x] = 1
+		return
+	}
+	if need := x.Node/64 + 1; need > len(r.rows[x.State]) {
+		row := make([]uint64, max(need, r.s.Long()/64+1))
+		copy(row, r.rows[x.State])
+		r.rows[x.State] = row
+	}
+	r.rows[x.State][x.Node/64] |= 1 << (x.Node % 64)
 }
 
 // goOn takes what a spot leads to. A stack that was made elsewhere may go back to what is no state: from there nothing leads on.

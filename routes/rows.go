@@ -86,71 +86,117 @@ func (g *graph) can(node, steps int) bool {
 	return g.known[x] == yes
 }
 
-// step is a rule of a row, and a node by which the row goes on.
-type step struct{ rule, node int }
+// few is up to how many nodes are gone on from anew, whenever that is asked.
+const few = 8
+
+// group is a rule, and nodes by which a row goes on behind it, rising.
+type group struct {
+	rule  int
+	nodes []int
+}
 
 // teller tells rows in order: of each length those with the lesser rules first, from the last rule on.
 type teller struct {
-	a    atn.Atn
-	s    *stack.Stack
-	g    *graph
-	most int
-	row  []int // from the last rule on
-	rows [][]int
-	more bool
+	a     atn.Atn
+	s     *stack.Stack
+	g     *graph
+	most  int
+	row   []int // from the last rule on
+	rows  [][]int
+	more  bool
+	known map[string][]group // what many nodes go on to
+
+	groups int   // how many groups were made
+	met    []int // of each node the last group that it was put to
 }
 
 func (t *teller) all(l []closure.Spot) {
 	near, far := 0, -1
+	var begins []group
 	for i, x := range l {
 		if i == 0 {
 			near = t.g.near[x.Node]
 		}
 		near, far = min(near, t.g.near[x.Node]), max(far, t.g.far[x.Node])
+		begins = append(begins, group{t.a.Owner[x.State], []int{x.Node}})
 	}
+	begins = t.joined(begins)
 	for left := near; left <= far && !t.more; left++ {
-		var steps []step
-		for _, x := range l {
-			if t.g.can(x.Node, left) {
-				steps = append(steps, step{t.a.Owner[x.State], x.Node})
+		t.each(begins, left)
+	}
+}
+
+// joined tells groups by their rules, rising, those of one rule as one.
+func (t *teller) joined(l []group) []group {
+	slices.SortStableFunc(l, func(a, b group) int { return cmp.Compare(a.rule, b.rule) })
+	var out []group
+	for i, x := range l {
+		if i == 0 || l[i-1].rule != x.rule {
+			out = append(out, group{rule: x.rule})
+			t.groups++
+		}
+		last := &out[len(out)-1]
+		for _, n := range x.nodes {
+			if t.met[n] != t.groups {
+				t.met[n] = t.groups
+				last.nodes = append(last.nodes, n)
 			}
 		}
-		t.each(steps, left)
 	}
+	for _, x := range out {
+		slices.Sort(x.nodes)
+	}
+	return out
 }
 
-// each goes on by steps, rule by rule, with so many nodes ahead of the bottom.
-func (t *teller) each(steps []step, left int) {
-	slices.SortFunc(steps, func(a, b step) int { return cmp.Or(cmp.Compare(a.rule, b.rule), cmp.Compare(a.node, b.node)) })
-	steps = slices.Compact(steps)
-	for from := 0; from < len(steps) && !t.more; {
-		to := from
-		for to < len(steps) && steps[to].rule == steps[from].rule {
-			to++
+// each goes on by those groups from which the bottom is so many nodes away.
+func (t *teller) each(groups []group, left int) {
+	for _, x := range groups {
+		if t.more {
+			return
 		}
-		t.row = append(t.row, steps[from].rule)
-		t.on(steps[from:to], left)
-		t.row = t.row[:len(t.row)-1]
-		from = to
+		if slices.ContainsFunc(x.nodes, func(n int) bool { return t.g.can(n, left) }) {
+			t.row = append(t.row, x.rule)
+			t.on(x.nodes, left)
+			t.row = t.row[:len(t.row)-1]
+		}
 	}
 }
 
-// on goes on from the nodes of steps of one rule.
-func (t *teller) on(at []step, left int) {
+// on goes on from nodes.
+func (t *teller) on(nodes []int, left int) {
 	if left == 0 {
 		t.tell()
 		return
 	}
-	var steps []step
-	for _, x := range at {
-		rule := t.a.Owner[t.s.Ret(x.node)]
-		for _, up := range t.g.ups[x.node] {
-			if t.g.can(up, left-1) {
-				steps = append(steps, step{rule, up})
-			}
+	t.each(t.ups(nodes), left-1)
+}
+
+// ups tells what nodes go on to. Of many nodes it is kept: rows of other lengths go by the same ones.
+func (t *teller) ups(nodes []int) []group {
+	if len(nodes) <= few {
+		return t.upsAnew(nodes)
+	}
+	key := make([]byte, 0, 4*len(nodes))
+	for _, n := range nodes {
+		key = append(key, byte(n), byte(n>>8), byte(n>>16), byte(n>>24))
+	}
+	l, ok := t.known[string(key)]
+	if !ok {
+		l = t.upsAnew(nodes)
+		t.known[string(key)] = l
+	}
+	return l
+}
+
+func (t *teller) upsAnew(nodes []int) []group {
+	var l []group
+	for _, n := range nodes {
+		if n > 0 {
+			l = append(l, group{t.a.Owner[t.s.Ret(n)], t.g.ups[n]})
 		}
 	}
-	t.each(steps, left-1)
+	return t.joined(l)
 }
 
 func (t *teller) tell() {
