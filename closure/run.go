@@ -10,8 +10,8 @@ import (
 )
 
 const (
-	few  = 16  // up to so many spots are looked through one by one
-	many = 256 // from so many on they may stand in rows of bits
+	few  = 16 // up to so many spots are looked through one by one
+	many = 64 // from so many on they may stand in rows of bits
 )
 
 // run is what one Close has found.
@@ -24,7 +24,7 @@ type run struct {
 	c     Closed
 	seen  map[Spot]int // the spots, where there are more than a few
 	rows  [][]uint64   // of each state the nodes it was come to with, where there are many spots for so few nodes
-	ended map[int]int  // nodes with which a rule's stop was come to
+	ended map[int]int  // nodes of this place with which a rule's stop was come to
 	code  api.Errno
 }
 
@@ -105,10 +105,10 @@ func (r *run) end(node int) {
 		r.c.Ends = true
 		return
 	}
-	if r.ended[node] > 0 {
-		return
+	// Only nodes of this place may come to go on to others while this Close goes on.
+	if r.s.At(node) == r.at {
+		r.ended[node] = 1
 	}
-	r.ended[node] = 1
 	ret := r.s.Ret(node)
 	for _, up := range r.s.Ups(node) {
 		r.come(Spot{State: ret, Node: up})

@@ -152,3 +152,28 @@ func TestOddAutomata(t *testing.T) {
 		t.Error(got)
 	}
 }
+
+// What is looked at in vain from many places is told alike, and soon.
+func TestLooksInVain(t *testing.T) {
+	d, _ := of(t, "s: A; A: 'a'; B: 'a'* 'b'; C: ('a' 'a')* '!' 'a'* '?'; D: 'c' [abc]* 'd';")
+	for n := range 4096 {
+		s := ""
+		for k := range 6 {
+			s += []string{"aaaaaaaaa", "b", "!", "caaaaaaaa"}[n>>(2*k)&3]
+		}
+		at := 0
+		for _, p := range All(d, s) {
+			if p != Next(d, s, at) {
+				t.Fatalf("%q %d: %v, not %v", s, at, p, Next(d, s, at))
+			}
+			at = p.End
+		}
+	}
+	long := make([]byte, api.MaxText)
+	for i := range long {
+		long[i] = 'a'
+	}
+	if l := All(d, string(long)); len(l) != api.MaxText || l[9] != (Piece{tok(0, 9, 10), api.MaxText + 1}) {
+		t.Error(len(l))
+	}
+}
