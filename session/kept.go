@@ -4,10 +4,8 @@ import (
 	"slices"
 	"strconv"
 
-	"souffleur/api"
 	"souffleur/cache"
 	"souffleur/complete"
-	"souffleur/rank"
 )
 
 // answers are those that were told, by their carets; the cache tells which of them are kept.
@@ -77,10 +75,10 @@ func copied(a complete.Answer) complete.Answer {
 	c := complete.Answer{
 		Begun:   a.Begun,
 		From:    a.From,
-		Dropped: append([]api.Token(nil), a.Dropped...),
-		Wrong:   append([]api.Token(nil), a.Wrong...),
-		Entries: append([]rank.Entry(nil), a.Entries...),
-		More:    append([]bool(nil), a.More...),
+		Dropped: slices.Clone(a.Dropped),
+		Wrong:   slices.Clone(a.Wrong),
+		Entries: slices.Clone(a.Entries),
+		More:    slices.Clone(a.More),
 	}
 	for _, rows := range a.Routes {
 		var l [][]int
