@@ -127,6 +127,36 @@ func TestAccepts(t *testing.T) {
 	}
 }
 
+// Behind two texts that Run leads to the same states the same texts may stand.
+func TestSameStates(t *testing.T) {
+	n, v := build(t, "s: 'ab' A B; A: 'a' ('b' | 'c')* 'd'?; B: [ac]+ 'd' | 'b' A;")
+	texts := []string{""}
+	for from := 0; len(texts) < 400; from++ {
+		for _, p := range []string{"a", "b", "c", "d"} {
+			texts = append(texts, texts[from]+p)
+		}
+	}
+	met := map[string]string{}
+	pairs := 0
+	for _, x := range texts {
+		key := n.Run(x).Key()
+		y, ok := met[key]
+		if !ok {
+			met[key] = x
+			continue
+		}
+		pairs++
+		for _, tail := range texts[:85] {
+			if !n.Accepts(x + tail).Same(n.Accepts(y + tail)) {
+				t.Fatal(x, y, tail)
+			}
+		}
+	}
+	if pairs < 100 || v.Long() != 3 {
+		t.Error(pairs)
+	}
+}
+
 func TestSets(t *testing.T) {
 	n, _ := build(t, "s: 'x'; A: [a-c] [d]; B: 'x';")
 	l := n.Sets(n.Begin())
