@@ -13,6 +13,9 @@ import (
 	"souffleur/closure"
 	"souffleur/gram"
 	"souffleur/left"
+	"souffleur/predict"
+	"souffleur/sim"
+	"souffleur/viable"
 	"souffleur/vocab"
 )
 
@@ -121,9 +124,9 @@ func TestLeastChoices(t *testing.T) {
 	for _, text := range grammars() {
 		w, a, _ := walk(t, text)
 		kept := cache.New(40)
-		for range 400 {
+		for i := range 400 {
 			var types []int
-			for range r.Intn(9) {
+			for range r.Intn(9 + i%2*8) {
 				types = append(types, r.Intn(a.Types+1)-r.Intn(2)*r.Intn(2))
 			}
 			before := slices.Clone(types)
@@ -139,6 +142,13 @@ func TestLeastChoices(t *testing.T) {
 			if x, code := Again(w, in, p.Choices, p.Whole); code != api.OK || !x.Same(p.Tree) {
 				t.Fatal(text, types, code)
 			}
+			_, sim, _ := viable.Keep(w, types, lots)
+			for _, most := range []int{sim.Steps(), 2 * sim.Steps(), 9 * sim.Steps()} {
+				// Where there are few steps, each look goes to the last token.
+				if q, code := Parse(w, types, most, nil); code != api.OK && code != api.ErrBudget || code == api.OK && !same(p, q) {
+					t.Fatal(text, types, most, code)
+				}
+			}
 			if whole, ok := least(a, in, true); ok != p.Whole || ok && !slices.Equal(whole, p.Choices) {
 				t.Fatal(text, types)
 			}
@@ -150,6 +160,40 @@ func TestLeastChoices(t *testing.T) {
 		}
 		if kept.Stats()[0] == 0 || kept.Long() == 0 {
 			t.Error("nothing was kept")
+		}
+	}
+}
+
+// TestLongSentences: looks that end as soon as they tell enough tell what looks to the last token do.
+func TestLongSentences(t *testing.T) {
+	r := rand.New(rand.NewSource(18))
+	for _, text := range grammars() {
+		w, a, _ := walk(t, text)
+		for range 25 {
+			s, _ := sim.New(w, lots)
+			var types []int
+			for range 20 + r.Intn(60) {
+				l := s.Offers().List()
+				if len(l) == 0 {
+					break
+				}
+				types = append(types, l[r.Intn(len(l))])
+				s.Feed(types[len(types)-1])
+			}
+			p, code := Parse(w, types, lots, nil)
+			if code != api.OK || len(p.Kept.Out) != 0 {
+				t.Fatal(text, types, code)
+			}
+			y := newWay(a, types, p.Whole)
+			var direct []Choice
+			code = y.run(func() (int, api.Errno) {
+				edge, code := predict.Choose(w, y.spot, y.types, y.whole, lots)
+				direct = append(direct, Choice{y.spot.State, edge})
+				return edge, code
+			})
+			if code != api.OK || !slices.Equal(direct, p.Choices) || !y.m.Tree().Same(p.Tree) {
+				t.Fatal(text, types, p.Choices, direct)
+			}
 		}
 	}
 }
