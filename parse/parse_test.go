@@ -164,6 +164,35 @@ func TestLeastChoices(t *testing.T) {
 	}
 }
 
+// TestBudget: with any number of steps the error is that of the tokens that are kept, or of the first choice that has one.
+func TestBudget(t *testing.T) {
+	r := rand.New(rand.NewSource(19))
+	texts := append(grammars(), "s: r r t*; r: x 'y'? | ; x: 'z'? ; t: x 'w' r;", "s: a a a 'q'; a: b c | c b | ; b: c? 'x'; c: 'y'? d; d: 'z' | ;")
+	for _, text := range texts {
+		w, a, _ := walk(t, text)
+		for range 8 {
+			var types []int
+			for range r.Intn(12) {
+				types = append(types, r.Intn(a.Types))
+			}
+			kept, s, _ := viable.Keep(w, types, lots)
+			for most := range 6 * s.Steps() {
+				if most > 40 && r.Intn(20) > 0 {
+					continue
+				}
+				_, _, want := viable.Keep(w, types, most)
+				if want == api.OK {
+					y := newWay(a, kept.Types(types), s.Ends())
+					want = y.run(func() (int, api.Errno) { return predict.Choose(w, y.spot, y.types, y.whole, most) })
+				}
+				if _, code := Parse(w, types, most, nil); code != want {
+					t.Fatal(text, types, most, code, want)
+				}
+			}
+		}
+	}
+}
+
 // TestLongSentences: looks that end as soon as they tell enough tell what looks to the last token do.
 func TestLongSentences(t *testing.T) {
 	r := rand.New(rand.NewSource(18))
