@@ -43,19 +43,27 @@ func (x chooser) find(y *way) (int, api.Errno) {
 	for i := range y.a.Edges[y.spot.State] {
 		edges = append(edges, i)
 	}
-	for n := 8; x.soon && n < len(y.types); n *= 8 {
-		var lead []int
-		for _, i := range edges {
-			if ok, _ := predict.Edge(x.w, y.spot, i, y.types[:n], false, x.most); ok {
-				lead = append(lead, i)
-			}
+	for n := 8; x.soon && n < len(y.types) && len(edges) > 0; n *= 8 {
+		if edges = x.leading(y, edges, n); len(edges) == 1 {
+			return edges[0], api.OK
 		}
-		if len(lead) == 1 {
-			return lead[0], api.OK
-		}
-		edges = lead
 	}
 	return predict.Choose(x.w, y.spot, y.types, y.whole, x.most)
+}
+
+// leading tells which of some edges lead on by so many types; none, where that can't be told.
+func (x chooser) leading(y *way, edges []int, n int) []int {
+	var lead []int
+	for _, i := range edges {
+		ok, code := predict.Edge(x.w, y.spot, i, y.types[:n], false, x.most)
+		if code != api.OK {
+			return nil
+		}
+		if ok {
+			lead = append(lead, i)
+		}
+	}
+	return lead
 }
 
 // Key tells what a choice hangs on, as a text.
